@@ -1,0 +1,147 @@
+package ways_test
+
+import (
+	"go/ast"
+	"go/importer"
+	"go/parser"
+	"go/token"
+	"go/types"
+	"path/filepath"
+	"slices"
+	"strings"
+	"testing"
+)
+
+// ways are the features that the document's section 'Ways' names for the layers that are built.
+var ways = []struct{ layer, features string }{
+	{"lex", "embedding promoted iota map variadic generic-function closure range-function range-integer struct-compared"},
+}
+
+// layer is a package of the project, with its types.
+type layer struct {
+	files []*ast.File
+	pack  *types.Package
+	types.Info
+}
+
+// project loads packages of the project from their source, and others from the library's.
+type project struct {
+	set    *token.FileSet
+	loaded map[string]*layer
+	others types.Importer
+}
+
+func newProject() project {
+	set := token.NewFileSet()
+	return project{set, map[string]*layer{}, importer.ForCompiler(set, "source", nil)}
+}
+
+// Import implements types.Importer.
+func (p project) Import(path string) (*types.Package, error) {
+	name, ours := strings.CutPrefix(path, "riposte/")
+	if !ours {
+		return p.others.Import(path)
+	}
+	l, err := p.load(name)
+	if err != nil {
+		return nil, err
+	}
+	return l.pack, nil
+}
+
+func (p project) load(name string) (*layer, error) {
+	if l, ok := p.loaded[name]; ok {
+		return l, nil
+	}
+	l := &layer{}
+	l.Types, l.Uses, l.Selections = map[ast.Expr]types.TypeAndValue{}, map[*ast.Ident]types.Object{}, map[*ast.SelectorExpr]*types.Selection{}
+	paths, err := filepath.Glob(filepath.Join("..", name, "*.go"))
+	for _, path := range paths {
+		if strings.HasSuffix(path, "_test.go") {
+			continue
+		}
+		f, err := parser.ParseFile(p.set, path, nil, parser.ParseComments)
+		if err != nil {
+			return nil, err
+		}
+		l.files = append(l.files, f)
+	}
+	if err != nil {
+		return nil, err
+	}
+	config := types.Config{Importer: p}
+	l.pack, err = config.Check("riposte/"+name, p.set, l.files, &l.Info)
+	p.loaded[name] = l
+	return l, err
+}
+
+// features returns the features that a node of the source has.
+func (l *layer) features(n ast.Node) []string {
+	switch x := n.(type) {
+	case *ast.StructType:
+		if slices.ContainsFunc(x.Fields.List, func(f *ast.Field) bool { return len(f.Names) == 0 }) {
+			return []string{"embedding"}
+		}
+	case *ast.SelectorExpr:
+		if s := l.Selections[x]; s != nil && len(s.Index()) > 1 {
+			return []string{"promoted"}
+		}
+	case *ast.Ident:
+		if o := l.Uses[x]; o != nil && o.Pkg() == nil && o.Name() == "iota" {
+			return []string{"iota"}
+		}
+	case *ast.MapType:
+		return []string{"map"}
+	case *ast.Ellipsis:
+		return []string{"variadic"}
+	case *ast.FuncDecl:
+		if x.Type.TypeParams != nil {
+			return []string{"generic-function"}
+		}
+	case *ast.FuncLit:
+		return []string{"closure"}
+	case *ast.RangeStmt:
+		return []string{ranged(l.TypeOf(x.X).Underlying())}
+	case *ast.BinaryExpr:
+		if _, ok := l.TypeOf(x.X).Underlying().(*types.Struct); ok && (x.Op == token.EQL || x.Op == token.NEQ) {
+			return []string{"struct-compared"}
+		}
+	}
+	return nil
+}
+
+// ranged returns the feature that a range over a type is.
+func ranged(t types.Type) string {
+	switch x := t.(type) {
+	case *types.Signature:
+		return "range-function"
+	case *types.Basic:
+		if x.Info()&types.IsInteger != 0 {
+			return "range-integer"
+		}
+	}
+	return ""
+}
+
+// The line of each layer in the document's section 'Ways'.
+func TestWays(t *testing.T) {
+	p := newProject()
+	for _, w := range ways {
+		l, err := p.load(w.layer)
+		if err != nil {
+			t.Fatal(err)
+		}
+		var has []string
+		for _, f := range l.files {
+			ast.Inspect(f, func(n ast.Node) bool {
+				has = append(has, l.features(n)...)
+				return true
+			})
+		}
+		for _, x := range strings.Fields(w.features) {
+			if !slices.Contains(has, x) {
+				t.Errorf("package %s: no %s", w.layer, x)
+			}
+		}
+	}
+}
