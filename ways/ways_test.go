@@ -15,6 +15,7 @@ import (
 // ways are the features that the document's section 'Ways' names for the layers that are built.
 var ways = []struct{ layer, features string }{
 	{"lex", "embedding promoted iota map variadic generic-function closure range-function range-integer struct-compared"},
+	{"parse", "embedding promoted map closure method-value method-expression range-function generic-function variadic defer recover panic type-switch"},
 }
 
 // layer is a package of the project, with its types.
@@ -22,6 +23,7 @@ type layer struct {
 	files []*ast.File
 	pack  *types.Package
 	types.Info
+	called map[ast.Expr]bool // what stands in front of the arguments of a call
 }
 
 // project loads packages of the project from their source, and others from the library's.
@@ -53,7 +55,7 @@ func (p project) load(name string) (*layer, error) {
 	if l, ok := p.loaded[name]; ok {
 		return l, nil
 	}
-	l := &layer{}
+	l := &layer{called: map[ast.Expr]bool{}}
 	l.Types, l.Uses, l.Selections = map[ast.Expr]types.TypeAndValue{}, map[*ast.Ident]types.Object{}, map[*ast.SelectorExpr]*types.Selection{}
 	paths, err := filepath.Glob(filepath.Join("..", name, "*.go"))
 	for _, path := range paths {
@@ -83,13 +85,17 @@ func (l *layer) features(n ast.Node) []string {
 			return []string{"embedding"}
 		}
 	case *ast.SelectorExpr:
-		if s := l.Selections[x]; s != nil && len(s.Index()) > 1 {
-			return []string{"promoted"}
-		}
+		return l.selected(x)
+	case *ast.CallExpr:
+		l.called[ast.Unparen(x.Fun)] = true
 	case *ast.Ident:
-		if o := l.Uses[x]; o != nil && o.Pkg() == nil && o.Name() == "iota" {
-			return []string{"iota"}
+		if o := l.Uses[x]; o != nil && o.Pkg() == nil {
+			return []string{o.Name()} // iota, panic, recover
 		}
+	case *ast.DeferStmt:
+		return []string{"defer"}
+	case *ast.TypeSwitchStmt:
+		return []string{"type-switch"}
 	case *ast.MapType:
 		return []string{"map"}
 	case *ast.Ellipsis:
@@ -108,6 +114,25 @@ func (l *layer) features(n ast.Node) []string {
 		}
 	}
 	return nil
+}
+
+// selected returns the features that a field or a method has where it is named.
+func (l *layer) selected(x *ast.SelectorExpr) []string {
+	s := l.Selections[x]
+	if s == nil {
+		return nil
+	}
+	var has []string
+	if len(s.Index()) > 1 {
+		has = append(has, "promoted")
+	}
+	if s.Kind() == types.MethodExpr {
+		has = append(has, "method-expression")
+	}
+	if s.Kind() == types.MethodVal && !l.called[x] {
+		has = append(has, "method-value")
+	}
+	return has
 }
 
 // ranged returns the feature that a range over a type is.
