@@ -16,6 +16,7 @@ import (
 var ways = []struct{ layer, features string }{
 	{"lex", "embedding promoted iota map variadic generic-function closure range-function range-integer struct-compared"},
 	{"parse", "embedding promoted map closure method-value method-expression range-function generic-function variadic defer recover panic type-switch"},
+	{"check", "embedding promoted map variadic closure method-value method-expression function-field range-function range-integer struct-compared"},
 }
 
 // layer is a package of the project, with its types.
@@ -81,9 +82,7 @@ func (p project) load(name string) (*layer, error) {
 func (l *layer) features(n ast.Node) []string {
 	switch x := n.(type) {
 	case *ast.StructType:
-		if slices.ContainsFunc(x.Fields.List, func(f *ast.Field) bool { return len(f.Names) == 0 }) {
-			return []string{"embedding"}
-		}
+		return l.fields(x)
 	case *ast.SelectorExpr:
 		return l.selected(x)
 	case *ast.CallExpr:
@@ -114,6 +113,20 @@ func (l *layer) features(n ast.Node) []string {
 		}
 	}
 	return nil
+}
+
+// fields returns the features that the fields of a struct have.
+func (l *layer) fields(x *ast.StructType) []string {
+	var has []string
+	for _, f := range x.Fields.List {
+		if len(f.Names) == 0 {
+			has = append(has, "embedding")
+		}
+		if _, ok := l.TypeOf(f.Type).Underlying().(*types.Signature); ok {
+			has = append(has, "function-field")
+		}
+	}
+	return has
 }
 
 // selected returns the features that a field or a method has where it is named.
