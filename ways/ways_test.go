@@ -17,6 +17,7 @@ var ways = []struct{ layer, features string }{
 	{"lex", "embedding promoted iota map variadic generic-function closure range-function range-integer struct-compared"},
 	{"parse", "embedding promoted map closure method-value method-expression range-function generic-function variadic defer recover panic type-switch"},
 	{"check", "embedding promoted map variadic closure method-value method-expression function-field range-function range-integer struct-compared"},
+	{"arena", "embedding promoted method-value method-expression range-function range-integer generic-function closure map range-map struct-compared"},
 }
 
 // layer is a package of the project, with its types.
@@ -153,6 +154,8 @@ func ranged(t types.Type) string {
 	switch x := t.(type) {
 	case *types.Signature:
 		return "range-function"
+	case *types.Map:
+		return "range-map"
 	case *types.Basic:
 		if x.Info()&types.IsInteger != 0 {
 			return "range-integer"
