@@ -19,6 +19,7 @@ var ways = []struct{ layer, features string }{
 	{"check", "embedding promoted map variadic closure method-value method-expression function-field range-function range-integer struct-compared"},
 	{"arena", "embedding promoted method-value method-expression range-function range-integer generic-function closure map range-map struct-compared"},
 	{"play", "embedding promoted map closure generic-function method-expression range-function struct-compared"},
+	{"run", "closure embedding promoted map method-expression iota range-integer"},
 }
 
 // layer is a package of the project, with its types.
