@@ -455,10 +455,10 @@ func compareWithModel(t *testing.T, x api.Session, known facts) (api.Turn, bool)
 
 // P6.1, P6.4 and P6.5: what is told of random programs along random words is what the model says.
 func TestModel(t *testing.T) {
-	r := source(1)
+	r := source(2)
 	counts := map[string]int{}
 	for range 300 {
-		x, known := randomSession(t, r), noFacts()
+		x, known := randomSession(r), noFacts()
 		a := place(t, x)
 		moves, _ := arena.Moves(a)
 		for len(x.Word) < 60 {

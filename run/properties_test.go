@@ -43,7 +43,7 @@ func conversations(t *testing.T, seed int64, many, most int) []spoken {
 	r := source(seed)
 	var l []spoken
 	for range many {
-		l = append(l, conversation(t, r, randomSession(t, r), most)...)
+		l = append(l, conversation(t, r, randomSession(r), most)...)
 	}
 	return l
 }
@@ -202,7 +202,7 @@ func TestNamesOfDefinitions(t *testing.T) {
 	r := source(18)
 	changed := 0
 	for changed < 150 {
-		x := randomSession(t, r)
+		x := randomSession(r)
 		for n, y := range x.T.Nodes {
 			d, e := check.Means(x.T, n)
 			if y.Kind != api.NameNode || e != api.OK || x.T.Nodes[d].Kind != api.DefItem || x.T.Nodes[d+1].Kind == api.ParamNode {

@@ -88,7 +88,7 @@ func TestAnyValues(t *testing.T) {
 	r := source(30)
 	right := 0
 	for range 1500 {
-		x := randomSession(t, r)
+		x := randomSession(r)
 		l := conversation(t, r, x, 8)
 		x.Word = slices.Concat(l[len(l)-1].Word, l[len(l)-1].Moves)
 		for range r.Intn(3) {

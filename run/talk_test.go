@@ -119,7 +119,7 @@ func TestTalk(t *testing.T) {
 func TestTalkByHand(t *testing.T) {
 	r := source(2)
 	for range 300 {
-		x := randomSession(t, r)
+		x := randomSession(r)
 		var by []int
 		for range r.Intn(20) {
 			by = append(by, r.Intn(9))
@@ -210,7 +210,7 @@ func TestCanByHand(t *testing.T) {
 	r := source(3)
 	several := 0
 	for range 400 {
-		x := randomSession(t, r)
+		x := randomSession(r)
 		x.Picks = x.Picks[:min(len(x.Picks), r.Intn(3))]
 		a := place(t, x)
 		for len(x.Word) < 10 {

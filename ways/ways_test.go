@@ -20,6 +20,7 @@ var ways = []struct{ layer, features string }{
 	{"arena", "embedding promoted method-value method-expression range-function range-integer generic-function closure map range-map struct-compared"},
 	{"play", "embedding promoted map closure generic-function method-expression range-function struct-compared"},
 	{"run", "closure embedding promoted map method-expression iota range-integer"},
+	{"core", "embedding promoted map closure method-expression generic-function range-function variadic defer recover panic type-switch array"},
 }
 
 // layer is a package of the project, with its types.
@@ -100,6 +101,10 @@ func (l *layer) features(n ast.Node) []string {
 		return []string{"type-switch"}
 	case *ast.MapType:
 		return []string{"map"}
+	case *ast.ArrayType:
+		if x.Len != nil {
+			return []string{"array"}
+		}
 	case *ast.Ellipsis:
 		return []string{"variadic"}
 	case *ast.FuncDecl:
